@@ -4,6 +4,7 @@ import (
 	"fmt"
 	"math"
 	"math/rand"
+	"slices"
 	"strings"
 	"sync"
 	"testing"
@@ -20,7 +21,12 @@ func hardTexts() []string {
 		texts = append(texts, strings.Repeat("a", n), strings.Repeat(":", n), strings.Repeat("\x80", n), padded("http://x/", n+9))
 	}
 	for i := 0; i < 300; i++ {
-		texts = append(texts, randomText(r))
+		texts = append(texts, randomText(r), randomJsonText(r), randomString(r))
+	}
+	for _, c := range []string{"[", "{", "1", "-", "\"", "\\", "\n", `{"a":`, "[[],"} {
+		for _, n := range []int{1, 4, 5, 13, 121, impl.MaxText/len(c) + 1, impl.MaxText / len(c)} {
+			texts = append(texts, strings.Repeat(c, n), `["`+strings.Repeat(c, n)+`"]`)
+		}
 	}
 	for i := 0; i < 300; i++ {
 		b := make([]byte, r.Intn(40))
@@ -47,6 +53,101 @@ func hardUrls() []impl.Url {
 	return urls
 }
 
+// hardJsons are values that are valid, invalid, or enormous; behind their
+// slices there is more in the same memory.
+func hardJsons() []impl.Json {
+	r := rand.New(rand.NewSource(6))
+	long := strings.Repeat("a", 1<<20)
+	values := []impl.Json{
+		{}, null, number(math.MinInt), number(math.MaxInt), boolean(math.MinInt), {Kind: math.MinInt}, {Kind: math.MaxInt},
+		text(long), object(long, null), list(text(long)),
+		{Kind: impl.JsObject, Names: make([]string, 1<<16)}, {Kind: impl.JsObject, Items: make([]impl.Json, 1<<16)},
+		{Kind: impl.JsList, Items: nulls(1 << 16)}, {Kind: impl.JsNull, Names: make([]string, 1<<16), Items: nulls(1 << 16)},
+		inside(1<<10, null, false), inside(1<<10, null, true), numbered(12), numbered(13),
+	}
+	for n := range 4 {
+		values = append(values, wide(n))
+	}
+	for i := range 600 {
+		j := randomJson(r, 1+r.Intn(5))
+		for range i % 3 {
+			j = brokenJson(r, j)
+		}
+		values = append(values, withSpare(j))
+	}
+	return values
+}
+
+// wide returns lists that are full down to n levels.
+func wide(n int) impl.Json {
+	j := null
+	for range n {
+		j = list(slices.Repeat([]impl.Json{j}, 12)...)
+	}
+	return j
+}
+
+// endlessJsons are values that contain themselves, or so many others that no
+// function has the time to look at all of them.
+func endlessJsons() []impl.Json {
+	a, b := list(null), object("a", null, "b", null)
+	a.Items[0] = a
+	b.Items[0], b.Items[1] = b, a
+	return []impl.Json{a, b, list(a, b), object("a", b), wide(40), list(wide(100))}
+}
+
+// withSpare returns j with slices that have unused capacity.
+func withSpare(j impl.Json) impl.Json {
+	names := append(append([]string{}, j.Names...), "spare", "spare")
+	items := make([]impl.Json, 0, len(j.Items)+2)
+	for _, item := range j.Items {
+		items = append(items, withSpare(item))
+	}
+	items = append(items, text("spare"), number(12345))
+	j.Names, j.Items = names[:len(j.Names)], items[:len(j.Items)]
+	return j
+}
+
+// whole returns a copy of j in which unused capacity is used.
+func whole(j impl.Json) impl.Json {
+	j.Names = slices.Clone(j.Names[:cap(j.Names)])
+	items := []impl.Json{}
+	for _, item := range j.Items[:cap(j.Items)] {
+		items = append(items, whole(item))
+	}
+	j.Items = items
+	return j
+}
+
+// overwrite changes everything in the slices of j, their unused capacity too.
+func overwrite(j impl.Json) {
+	for i := range j.Names[:cap(j.Names)] {
+		j.Names[:cap(j.Names)][i] = "overwritten"
+	}
+	for i, item := range j.Items[:cap(j.Items)] {
+		overwrite(item)
+		j.Items[:cap(j.Items)][i] = text("overwritten")
+	}
+}
+
+// places collects the places of everything in the slices of j, their unused
+// capacity too, and reports whether they are all different.
+func places(j impl.Json, seen map[any]bool) bool {
+	different := true
+	for i := range j.Names[:cap(j.Names)] {
+		place := &j.Names[:cap(j.Names)][i]
+		different = different && !seen[place]
+		seen[place] = true
+	}
+	for i, item := range j.Items[:cap(j.Items)] {
+		place := &j.Items[:cap(j.Items)][i]
+		different = different && !seen[place]
+		seen[place] = true
+		different = places(item, seen) && different
+	}
+	return different
+}
+
 // calls returns a call of every function that is built so far for every hard
 // argument; each returns its results as a text.
 func calls() []func() string {
@@ -57,7 +158,21 @@ func calls() []func() string {
 			func() string { return fmt.Sprint(impl.CodeOf(s)) },
 			func() string { u, code := impl.ParseUrl(s); return fmt.Sprintf("%+v %d", u, code) },
 			func() string { return impl.StripText(s) },
+			func() string { j, code := impl.ReadJson(s); return fmt.Sprint(j, code) },
+			func() string { return impl.QuoteText(s) },
 		)
+	}
+	values := append(hardJsons(), endlessJsons()...)
+	for i, j := range values {
+		k := values[(i*7+1)%len(values)]
+		list = append(list,
+			func() string { return fmt.Sprint(impl.JsonOK(j)) },
+			func() string { s, code := impl.JsonText(j); return fmt.Sprint(s, code) },
+			func() string { return fmt.Sprint(impl.SameJson(j, j), impl.SameJson(j, k)) },
+		)
+		for _, name := range append([]string{"", "a", strings.Repeat("a", impl.MaxText+1)}, j.Names[:min(len(j.Names), 20)]...) {
+			list = append(list, func() string { m, code := impl.Member(j, name); return fmt.Sprint(m, code) })
+		}
 	}
 	urls := hardUrls()
 	for i, u := range urls {
@@ -122,6 +237,9 @@ func TestArgumentsUnchanged(t *testing.T) {
 		impl.CodeOf(s)
 		impl.ParseUrl(s)
 		impl.StripText(s)
+		impl.QuoteText(s)
+		impl.ReadJson(s)
+		impl.Member(object("a", null), s)
 		if s != before {
 			t.Errorf("the text %.100q was changed", before)
 		}
@@ -139,5 +257,70 @@ func TestArgumentsUnchanged(t *testing.T) {
 		if u != before {
 			t.Errorf("the URL %s was changed", brief(before))
 		}
+	}
+}
+
+// TestValuesUnchanged: a value is the same after every call, and so is what its
+// slices do not use.
+func TestValuesUnchanged(t *testing.T) {
+	for _, j := range hardJsons() {
+		before := whole(j)
+		impl.JsonOK(j)
+		impl.JsonText(j)
+		impl.SameJson(j, j)
+		impl.SameJson(j, null)
+		for _, name := range append([]string{"", "a"}, j.Names[:min(len(j.Names), 20)]...) {
+			impl.Member(j, name)
+		}
+		if !equal(whole(j), before) {
+			t.Errorf("the value %s was changed", briefJson(before))
+		}
+	}
+}
+
+// TestMembersAreNew: a member shares no memory with its object, and no two of
+// its slices share any.
+func TestMembersAreNew(t *testing.T) {
+	found := 0
+	for _, j := range append(hardJsons(), object("a", wide(3))) {
+		for _, name := range j.Names[:min(len(j.Names), 20)] {
+			m, code := impl.Member(j, name)
+			if code != impl.OK {
+				continue
+			}
+			found++
+			if !places(m, map[any]bool{}) {
+				t.Fatalf("two slices of the member %s share memory", briefJson(m))
+			}
+			before := whole(j)
+			overwrite(m)
+			if !equal(whole(j), before) {
+				t.Fatalf("a change of its member %q changed %s", name, briefJson(before))
+			}
+		}
+	}
+	if found < 100 {
+		t.Errorf("only %d members", found)
+	}
+}
+
+// TestReadValuesAreNew: no two slices of a value that is read share memory,
+// and two readings of one text share none either.
+func TestReadValuesAreNew(t *testing.T) {
+	found := 0
+	for _, s := range append(hardTexts(), mustText(wide(3)), "[[[],[]],[[],[]],{},{}]") {
+		a, code := impl.ReadJson(s)
+		b, _ := impl.ReadJson(s)
+		if len(a.Items) == 0 || code != impl.OK {
+			continue
+		}
+		found++
+		seen := map[any]bool{}
+		if !places(a, seen) || !places(b, seen) {
+			t.Errorf("two slices that are read from %.200q share memory", s)
+		}
+	}
+	if found < 30 {
+		t.Errorf("only %d values", found)
 	}
 }
