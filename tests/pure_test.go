@@ -29,6 +29,9 @@ func hardTexts() []string {
 		}
 	}
 	for i := 0; i < 300; i++ {
+		texts = append(texts, randomEndpoints(r), strings.Join(jsonParts(randomReportTo(r)), ""))
+	}
+	for i := 0; i < 300; i++ {
 		b := make([]byte, r.Intn(40))
 		r.Read(b)
 		texts = append(texts, string(b), "http://"+string(b))
@@ -76,6 +79,51 @@ func hardJsons() []impl.Json {
 		values = append(values, withSpare(j))
 	}
 	return values
+}
+
+// hardGroups are groups that are valid, invalid, or enormous; behind their
+// targets there are more in the same memory.
+func hardGroups() []impl.Group {
+	r := rand.New(rand.NewSource(7))
+	long := strings.Repeat("a", 1<<20)
+	groups := []impl.Group{
+		{}, endpoint("a", "https://x/"), endpoint("a", "https://x/,"), endpoint(long, "https://x/"), endpoint("a", long), endpoint("a", "https://x/"+long), endpoint("a", "https://x/#"+long),
+		group("a", math.MinInt, targets(4)...), group("a", math.MaxInt, targets(4)...), group("a", 5, targets(1<<16)...), group("a", 5, make([]impl.Target, 1<<16)...),
+		group("a", 5, target("https://x/", math.MinInt, math.MaxInt)), group("a", 5, target("https://x/", math.MaxInt, math.MinInt)),
+	}
+	for range 600 {
+		groups = append(groups, randomGroup(r))
+	}
+	for i, g := range groups {
+		spare := append(slices.Clone(g.Targets), target("https://spare/", 1, 1), target("spare", 0, 0))
+		groups[i].Targets = spare[:len(g.Targets)]
+	}
+	return groups
+}
+
+// hardGroupLists are lists of these groups, with more behind them in the same
+// memory.
+func hardGroupLists() [][]impl.Group {
+	groups := hardGroups()
+	lists := [][]impl.Group{nil, {}, groups[:4], groups[:5], make([]impl.Group, impl.MaxList), make([]impl.Group, impl.MaxList+1), make([]impl.Group, 1<<16)}
+	for i := range groups {
+		lists = append(lists, groups[i:i+1], groups[max(0, i-i%5):i])
+	}
+	r := rand.New(rand.NewSource(8))
+	for range 300 {
+		list, _ := impl.ReadEndpoints(randomEndpoints(r))
+		lists = append(lists, append(list, endpoint("spare", "https://spare/"), endpoint("spare", "spare"))[:len(list)])
+	}
+	return lists
+}
+
+// wholeGroups returns a copy of a list in which unused capacity is used.
+func wholeGroups(list []impl.Group) []impl.Group {
+	list = slices.Clone(list[:cap(list)])
+	for i, g := range list {
+		list[i].Targets = slices.Clone(g.Targets[:cap(g.Targets)])
+	}
+	return list
 }
 
 // wide returns lists that are full down to n levels.
@@ -160,7 +208,21 @@ func calls() []func() string {
 			func() string { return impl.StripText(s) },
 			func() string { j, code := impl.ReadJson(s); return fmt.Sprint(j, code) },
 			func() string { return impl.QuoteText(s) },
+			func() string { groups, code := impl.ReadEndpoints(s); return fmt.Sprint(groups, code) },
+			func() string { g, code := impl.ReadReportTo(s); return fmt.Sprint(g, code) },
 		)
+	}
+	groups := hardGroups()
+	for i, g := range groups {
+		h := groups[(i*7+1)%len(groups)]
+		list = append(list,
+			func() string { return fmt.Sprint(impl.GroupOK(g)) },
+			func() string { return fmt.Sprint(impl.SameGroup(g, g), impl.SameGroup(g, h)) },
+			func() string { s, code := impl.ReportToText(g); return fmt.Sprint(s, code) },
+		)
+	}
+	for _, groups := range hardGroupLists() {
+		list = append(list, func() string { s, code := impl.EndpointsText(groups); return fmt.Sprint(s, code) })
 	}
 	values := append(hardJsons(), endlessJsons()...)
 	for i, j := range values {
@@ -240,6 +302,8 @@ func TestArgumentsUnchanged(t *testing.T) {
 		impl.QuoteText(s)
 		impl.ReadJson(s)
 		impl.Member(object("a", null), s)
+		impl.ReadEndpoints(s)
+		impl.ReadReportTo(s)
 		if s != before {
 			t.Errorf("the text %.100q was changed", before)
 		}
@@ -322,5 +386,50 @@ func TestReadValuesAreNew(t *testing.T) {
 	}
 	if found < 30 {
 		t.Errorf("only %d values", found)
+	}
+}
+
+// TestGroupsUnchanged: a group and a list of groups are the same after every
+// call, and so is what their slices do not use.
+func TestGroupsUnchanged(t *testing.T) {
+	lists := append(hardGroupLists(), hardGroups())
+	for _, list := range lists {
+		before := wholeGroups(list)
+		impl.EndpointsText(list)
+		for _, g := range list[:min(len(list), 1000)] {
+			impl.GroupOK(g)
+			impl.SameGroup(g, g)
+			impl.SameGroup(g, list[0])
+			impl.ReportToText(g)
+		}
+		if !slices.EqualFunc(wholeGroups(list), before, sameGroup) {
+			t.Errorf("the groups %.300q were changed", fmt.Sprint(before))
+		}
+	}
+}
+
+// TestReadGroupsAreNew: no two groups that are read share memory, neither those
+// of one reading nor those of two readings of one text.
+func TestReadGroupsAreNew(t *testing.T) {
+	found := 0
+	for _, s := range hardTexts() {
+		seen := map[*impl.Target]bool{}
+		for range 2 {
+			groups, _ := impl.ReadEndpoints(s)
+			g, _ := impl.ReadReportTo(s)
+			for _, g := range append(groups, g) {
+				for i := range g.Targets[:cap(g.Targets)] {
+					place := &g.Targets[:cap(g.Targets)][i]
+					if seen[place] {
+						t.Fatalf("two groups that are read from %.200q share memory", s)
+					}
+					seen[place] = true
+					found++
+				}
+			}
+		}
+	}
+	if found < 500 {
+		t.Errorf("only %d targets", found)
 	}
 }
