@@ -29,7 +29,7 @@ func hardTexts() []string {
 		}
 	}
 	for i := 0; i < 300; i++ {
-		texts = append(texts, randomEndpoints(r), strings.Join(jsonParts(randomReportTo(r)), ""))
+		texts = append(texts, randomEndpoints(r), strings.Join(jsonParts(randomReportTo(r)), ""), randomPolicyText(r))
 	}
 	for i := 0; i < 300; i++ {
 		b := make([]byte, r.Intn(40))
@@ -126,6 +126,62 @@ func wholeGroups(list []impl.Group) []impl.Group {
 	return list
 }
 
+// hardPolicies are policies that are valid, invalid, or enormous; behind their
+// slices there is more in the same memory.
+func hardPolicies() []impl.Policy {
+	r := rand.New(rand.NewSource(9))
+	long := strings.Repeat("a", 1<<20)
+	policies := []impl.Policy{
+		{}, {ReportTo: long}, {Uris: make([]string, 1<<16)}, {Uris: []string{long}}, plain(make([]impl.Rule, 1<<16)...), plain(slices.Repeat([]impl.Rule{rule("a")}, 1<<16)...),
+		plain(rule(long)), plain(rule("a", long)), plain(rule("a", make([]string, 1<<16)...)), plain(rule("a", slices.Repeat([]string{"w"}, 1<<16)...)), plain(rule("report-to", long)), plain(rule("report-uri", long, "https://x/"+long)),
+	}
+	for i := range 600 {
+		policies = append(policies, randomPolicy(r, i%3))
+	}
+	for i, p := range policies {
+		policies[i] = spacious(p)
+	}
+	return policies
+}
+
+// spacious returns p with slices that have unused capacity.
+func spacious(p impl.Policy) impl.Policy {
+	uris := append(slices.Clone(p.Uris), "https://spare/", "spare")
+	list := append(slices.Clone(p.Rules), rule("spare", "spare"), rule("report-to", "spare"))
+	for i, r := range list {
+		list[i].Words = append(slices.Clone(r.Words), "spare", "https://spare/")[:len(r.Words)]
+	}
+	return impl.Policy{ReportTo: p.ReportTo, Uris: uris[:len(p.Uris)], Rules: list[:len(p.Rules)]}
+}
+
+// wholePolicy returns a copy of p in which unused capacity is used.
+func wholePolicy(p impl.Policy) impl.Policy {
+	p.Uris, p.Rules = slices.Clone(p.Uris[:cap(p.Uris)]), slices.Clone(p.Rules[:cap(p.Rules)])
+	for i, r := range p.Rules {
+		p.Rules[i].Words = slices.Clone(r.Words[:cap(r.Words)])
+	}
+	return p
+}
+
+// policyPlaces collects the places of everything in the slices of p, their
+// unused capacity too.
+func policyPlaces(p impl.Policy) []any {
+	var list []any
+	p.Uris, p.Rules = p.Uris[:cap(p.Uris)], p.Rules[:cap(p.Rules)]
+	for i := range p.Uris {
+		list = append(list, &p.Uris[i])
+	}
+	for i := range p.Rules {
+		list = append(list, &p.Rules[i])
+		found := p.Rules[i].Words
+		found = found[:cap(found)]
+		for j := range found {
+			list = append(list, &found[j])
+		}
+	}
+	return list
+}
+
 // wide returns lists that are full down to n levels.
 func wide(n int) impl.Json {
 	j := null
@@ -210,6 +266,15 @@ func calls() []func() string {
 			func() string { return impl.QuoteText(s) },
 			func() string { groups, code := impl.ReadEndpoints(s); return fmt.Sprint(groups, code) },
 			func() string { g, code := impl.ReadReportTo(s); return fmt.Sprint(g, code) },
+			func() string { p, code := impl.ReadPolicy(s); return fmt.Sprint(p, code) },
+		)
+	}
+	for _, p := range hardPolicies() {
+		list = append(list,
+			func() string { return fmt.Sprint(impl.PolicyOK(p)) },
+			func() string { s, code := impl.PolicyText(p); return fmt.Sprint(s, code) },
+			func() string { g, code := impl.UriGroup(p); return fmt.Sprint(g, code) },
+			func() string { s, code := impl.GroupFor(p); return fmt.Sprint(s, code) },
 		)
 	}
 	groups := hardGroups()
@@ -304,6 +369,7 @@ func TestArgumentsUnchanged(t *testing.T) {
 		impl.Member(object("a", null), s)
 		impl.ReadEndpoints(s)
 		impl.ReadReportTo(s)
+		impl.ReadPolicy(s)
 		if s != before {
 			t.Errorf("the text %.100q was changed", before)
 		}
@@ -430,6 +496,65 @@ func TestReadGroupsAreNew(t *testing.T) {
 		}
 	}
 	if found < 500 {
+		t.Errorf("only %d targets", found)
+	}
+}
+
+// TestPoliciesUnchanged: a policy is the same after every call, and so is what
+// its slices do not use.
+func TestPoliciesUnchanged(t *testing.T) {
+	for _, p := range hardPolicies() {
+		before := wholePolicy(p)
+		impl.PolicyOK(p)
+		impl.PolicyText(p)
+		impl.UriGroup(p)
+		impl.GroupFor(p)
+		if !samePolicy(wholePolicy(p), before) {
+			t.Errorf("the policy %s was changed", briefPolicy(before))
+		}
+	}
+}
+
+// TestReadPoliciesAreNew: no two slices of policies that are read share memory,
+// neither those of one reading nor those of two readings of one text.
+func TestReadPoliciesAreNew(t *testing.T) {
+	found := 0
+	for _, s := range hardTexts() {
+		seen := map[any]bool{}
+		for range 2 {
+			p, _ := impl.ReadPolicy(s)
+			for _, place := range policyPlaces(p) {
+				if seen[place] {
+					t.Fatalf("two slices that are read from %.200q share memory", s)
+				}
+				seen[place] = true
+				found++
+			}
+		}
+	}
+	if found < 1000 {
+		t.Errorf("only %d places", found)
+	}
+}
+
+// TestUriGroupsAreNew: no two groups of one policy share memory.
+func TestUriGroupsAreNew(t *testing.T) {
+	found := 0
+	for _, p := range hardPolicies() {
+		seen := map[*impl.Target]bool{}
+		for range 2 {
+			g, _ := impl.UriGroup(p)
+			for i := range g.Targets[:cap(g.Targets)] {
+				place := &g.Targets[:cap(g.Targets)][i]
+				if seen[place] {
+					t.Fatalf("two groups of %s share memory", briefPolicy(p))
+				}
+				seen[place] = true
+				found++
+			}
+		}
+	}
+	if found < 100 {
 		t.Errorf("only %d targets", found)
 	}
 }
