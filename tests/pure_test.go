@@ -144,6 +144,28 @@ func hardPolicies() []impl.Policy {
 	return policies
 }
 
+// hardViolations are violations that are valid, invalid, or enormous.
+func hardViolations() []impl.Violation {
+	r := rand.New(rand.NewSource(10))
+	long := strings.Repeat("a", 1<<20)
+	violations := []impl.Violation{
+		{}, ordinary(),
+		{Document: long, Referrer: long, Blocked: long, Source: long, Directive: long, Sample: long, Line: math.MaxInt, Column: math.MaxInt, Redirected: true},
+		{Directive: "a", Line: math.MinInt}, {Directive: "a", Column: math.MinInt}, {Directive: "a", Sample: long}, {Directive: long},
+	}
+	for _, field := range urlFields {
+		violations = append(violations, like(func(v *impl.Violation) { *field(v) = long }), like(func(v *impl.Violation) { *field(v) = "https://x/" + long }))
+	}
+	for i := range 600 {
+		v := randomViolation(r)
+		for range i % 3 {
+			v = changedViolation(r, v)
+		}
+		violations = append(violations, v)
+	}
+	return violations
+}
+
 // spacious returns p with slices that have unused capacity.
 func spacious(p impl.Policy) impl.Policy {
 	uris := append(slices.Clone(p.Uris), "https://spare/", "spare")
@@ -275,6 +297,18 @@ func calls() []func() string {
 			func() string { s, code := impl.PolicyText(p); return fmt.Sprint(s, code) },
 			func() string { g, code := impl.UriGroup(p); return fmt.Sprint(g, code) },
 			func() string { s, code := impl.GroupFor(p); return fmt.Sprint(s, code) },
+		)
+	}
+	violations := hardViolations()
+	for i, v := range violations {
+		w := violations[(i*7+1)%len(violations)]
+		list = append(list,
+			func() string { return fmt.Sprint(impl.ViolationOK(v)) },
+			func() string { s, code := impl.BlockedPart(v); return fmt.Sprint(s, code) },
+			func() string { s, code := impl.SourcePart(v); return fmt.Sprint(s, code) },
+			func() string { j, code := impl.BodyOf(v); return fmt.Sprint(j, code) },
+			func() string { s, code := impl.BodyText(v); return fmt.Sprint(s, code) },
+			func() string { return fmt.Sprint(impl.AlikeOutside(v, v), impl.AlikeOutside(v, w)) },
 		)
 	}
 	groups := hardGroups()
@@ -556,5 +590,50 @@ func TestUriGroupsAreNew(t *testing.T) {
 	}
 	if found < 100 {
 		t.Errorf("only %d targets", found)
+	}
+}
+
+// TestViolationsUnchanged: a violation is the same after every call.
+func TestViolationsUnchanged(t *testing.T) {
+	for _, v := range hardViolations() {
+		before := v
+		for _, field := range []*string{&before.Document, &before.Referrer, &before.Blocked, &before.Source, &before.Directive, &before.Sample} {
+			*field = strings.Clone(*field)
+		}
+		impl.ViolationOK(v)
+		impl.BlockedPart(v)
+		impl.SourcePart(v)
+		impl.BodyOf(v)
+		impl.BodyText(v)
+		impl.AlikeOutside(v, v)
+		impl.AlikeOutside(v, ordinary())
+		if v != before {
+			t.Errorf("the violation %s was changed", briefViolation(before))
+		}
+	}
+}
+
+// TestBodiesAreNew: no two slices of bodies share memory, neither those of one
+// body nor those of two bodies of one violation.
+func TestBodiesAreNew(t *testing.T) {
+	found := 0
+	for _, v := range hardViolations() {
+		a, code := impl.BodyOf(v)
+		b, _ := impl.BodyOf(v)
+		if code != impl.OK {
+			continue
+		}
+		found++
+		seen := map[any]bool{}
+		if !places(a, seen) || !places(b, seen) {
+			t.Errorf("two slices of bodies of %s share memory", briefViolation(v))
+		}
+		overwrite(a)
+		if c, _ := impl.BodyOf(v); !equal(b, c) {
+			t.Errorf("a change of a body of %s changed others", briefViolation(v))
+		}
+	}
+	if found < 100 {
+		t.Errorf("only %d bodies", found)
 	}
 }
