@@ -8,6 +8,7 @@ import (
 	"strings"
 	"sync"
 	"testing"
+	"unsafe"
 
 	"loop.example/g00779/impl"
 )
@@ -166,6 +167,124 @@ func hardViolations() []impl.Violation {
 	return violations
 }
 
+// hardReports are reports that are valid, invalid, or enormous.
+func hardReports() []impl.Report {
+	r := rand.New(rand.NewSource(11))
+	long := strings.Repeat("a", 1<<20)
+	reports := []impl.Report{
+		{}, report(1, 0, 0, "a"), report(math.MinInt, math.MinInt, math.MinInt, ""), report(math.MaxInt, math.MaxInt, math.MaxInt, long), report(1, 0, 0, long),
+		report(impl.MaxNow, impl.MaxNow, 3, long[:8000]), report(100, impl.MaxNow, 0, "new"), report(100, 1000, 0, "new"),
+	}
+	for range 20 {
+		reports = append(reports, randomReport(r, randomQueue(r)))
+	}
+	return reports
+}
+
+// hardQueues are queues that are valid, invalid, or enormous; behind their
+// lists there is more in the same memory.
+func hardQueues() []impl.Queue {
+	r := rand.New(rand.NewSource(12))
+	long := strings.Repeat("a", 1<<20)
+	queues := []impl.Queue{
+		{}, sized(1<<10, 6), queue(nil, make([]impl.Report, 1<<16)...), queue(make([]string, 1<<16)), queue([]string{long}), queue(nil, report(1, 0, 0, long)),
+		queue(nil, report(math.MinInt, 0, 0, "a")), queue(nil, report(1, math.MaxInt, 0, "a")), queue(nil, report(1, 0, math.MaxInt, "a"), report(2, math.MinInt, math.MinInt, "a")),
+		queue([]string{long[:8000], long[:7999]}, report(1, 0, 0, long[:8000]), report(2, 0, 3, long[1:8001])),
+	}
+	for i := range impl.MaxQueue + 1 {
+		for j := range impl.MaxWindow + 1 {
+			queues = append(queues, sized(i, j))
+		}
+	}
+	for i := range 200 {
+		q := randomQueue(r)
+		for range i % 3 {
+			q = changedQueue(r, q)
+		}
+		queues = append(queues, q)
+	}
+	for i, q := range queues {
+		spareItems := append(slices.Clone(q.Items), report(2000, 2000, 0, "spare"), impl.Report{})
+		spareRecent := append(slices.Clone(q.Recent), "spare", "")
+		queues[i] = queue(spareRecent[:len(q.Recent)], spareItems[:len(q.Items)]...)
+	}
+	return queues
+}
+
+// wholeQueue returns a copy of q in which unused capacity is used.
+func wholeQueue(q impl.Queue) impl.Queue {
+	return queue(slices.Clone(q.Recent[:cap(q.Recent)]), slices.Clone(q.Items[:cap(q.Items)])...)
+}
+
+// queuePlaces collects the places of everything in the lists of q, their unused
+// capacity and the bytes of their bodies too.
+func queuePlaces(q impl.Queue) []any {
+	list := reportPlaces(q.Items)
+	recent := q.Recent[:cap(q.Recent)]
+	for i := range recent {
+		list = append(list, &recent[i])
+		list = append(list, bodyPlaces(recent[i])...)
+	}
+	return list
+}
+
+func reportPlaces(reports []impl.Report) []any {
+	var list []any
+	reports = reports[:cap(reports)]
+	for i := range reports {
+		list = append(list, &reports[i])
+		list = append(list, bodyPlaces(reports[i].Body)...)
+	}
+	return list
+}
+
+func bodyPlaces(body string) []any {
+	if body == "" {
+		return nil
+	}
+	return []any{unsafe.StringData(body)}
+}
+
+func idPlaces(ids []int) []any {
+	var list []any
+	ids = ids[:cap(ids)]
+	for i := range ids {
+		list = append(list, &ids[i])
+	}
+	return list
+}
+
+// queueCall is a call whose result is a queue or a part of one.
+type queueCall func(impl.Queue) (text string, places []any)
+
+func queueCalls() []queueCall { return queueCallsOf(hardReports()) }
+
+// queueCallsOf returns calls of all functions with results that have memory;
+// the reports are offered.
+func queueCallsOf(offered []impl.Report) []queueCall {
+	list := []queueCall{func(q impl.Queue) (string, []any) {
+		reports, code := impl.Batch(q)
+		return fmt.Sprint(reports, code), reportPlaces(reports)
+	}}
+	for _, r := range offered {
+		list = append(list, func(q impl.Queue) (string, []any) {
+			x, taken, id, code := impl.Offer(q, r)
+			return fmt.Sprint(x, taken, id, code), queuePlaces(x)
+		})
+	}
+	removals := []removal{expire(math.MinInt, 1), expire(0, math.MaxInt), expire(0, 1), expire(150, 100), expire(301, 100), expire(impl.MaxNow, 1)}
+	for _, n := range []int{math.MinInt, -1, 0, 1, 2, 3, 4, math.MaxInt} {
+		removals = append(removals, settle(n), missed(n))
+	}
+	for _, call := range removals {
+		list = append(list, func(q impl.Queue) (string, []any) {
+			x, ids, code := call(q)
+			return fmt.Sprint(x, ids, code), append(queuePlaces(x), idPlaces(ids)...)
+		})
+	}
+	return list
+}
+
 // spacious returns p with slices that have unused capacity.
 func spacious(p impl.Policy) impl.Policy {
 	uris := append(slices.Clone(p.Uris), "https://spare/", "spare")
@@ -310,6 +429,20 @@ func calls() []func() string {
 			func() string { s, code := impl.BodyText(v); return fmt.Sprint(s, code) },
 			func() string { return fmt.Sprint(impl.AlikeOutside(v, v), impl.AlikeOutside(v, w)) },
 		)
+	}
+	for _, r := range hardReports() {
+		list = append(list, func() string { return fmt.Sprint(impl.ReportOK(r)) })
+	}
+	queues := hardQueues()
+	for i, q := range queues {
+		other := queues[(i*7+1)%len(queues)]
+		list = append(list,
+			func() string { return fmt.Sprint(impl.QueueOK(q)) },
+			func() string { return fmt.Sprint(impl.SameQueue(q, q), impl.SameQueue(q, other)) },
+		)
+		for _, call := range queueCalls() {
+			list = append(list, func() string { s, _ := call(q); return s })
+		}
 	}
 	groups := hardGroups()
 	for i, g := range groups {
@@ -635,5 +768,94 @@ func TestBodiesAreNew(t *testing.T) {
 	}
 	if found < 100 {
 		t.Errorf("only %d bodies", found)
+	}
+}
+
+// TestQueuesUnchanged: a queue is the same after every call, and so is what its
+// lists do not use.
+func TestQueuesUnchanged(t *testing.T) {
+	for _, q := range hardQueues() {
+		before := wholeQueue(q)
+		impl.QueueOK(q)
+		impl.SameQueue(q, q)
+		impl.SameQueue(q, sized(2, 2))
+		for _, call := range queueCalls() {
+			call(q)
+		}
+		if !equalQueues(wholeQueue(q), before) {
+			t.Errorf("%s was changed", briefQueue(before))
+		}
+	}
+}
+
+// TestQueuesAreNew: no result shares memory with an argument, with another
+// result, or in itself.
+func TestQueuesAreNew(t *testing.T) {
+	found := 0
+	offered := hardReports()
+	for _, q := range hardQueues() {
+		if !impl.QueueOK(q) {
+			continue
+		}
+		seen := map[any]bool{}
+		for _, place := range append(queuePlaces(q), reportPlaces(offered)...) {
+			seen[place] = true
+		}
+		for i, call := range queueCallsOf(offered) {
+			_, first := call(q)
+			_, second := call(q)
+			for _, place := range append(first, second...) {
+				if seen[place] {
+					t.Fatalf("%s: results of call %d share memory", briefQueue(q), i)
+				}
+				seen[place] = true
+				found++
+			}
+		}
+	}
+	if found < 10000 {
+		t.Errorf("only %d places", found)
+	}
+}
+
+// TestChangesOfQueues: a change of a result is not seen in the argument, nor
+// one of the argument in the result.
+func TestChangesOfQueues(t *testing.T) {
+	for i := range impl.MaxQueue + 1 {
+		for j := range impl.MaxWindow + 1 {
+			for _, call := range []func(impl.Queue) impl.Queue{
+				func(q impl.Queue) impl.Queue { x, _, _, _ := impl.Offer(q, report(70, 700, 0, "new")); return x },
+				func(q impl.Queue) impl.Queue { x, _, _, _ := impl.Offer(q, report(70, 700, 0, "a")); return x },
+				func(q impl.Queue) impl.Queue { x, _, _, _ := impl.Offer(q, report(10, 0, 0, "new")); return x },
+				func(q impl.Queue) impl.Queue { x, _, _ := impl.Expire(q, 250, 100); return x },
+				func(q impl.Queue) impl.Queue { x, _, _ := impl.Settle(q, 0); return x },
+				func(q impl.Queue) impl.Queue { x, _, _ := impl.Settle(q, min(i, 2)); return x },
+				func(q impl.Queue) impl.Queue { x, _, _ := impl.Missed(q, 0); return x },
+				func(q impl.Queue) impl.Queue { x, _, _ := impl.Missed(q, min(i, 3)); return x },
+				func(q impl.Queue) impl.Queue { list, _ := impl.Batch(q); return queue(nil, list...) },
+			} {
+				q, untouched := sized(i, j), sized(i, j)
+				want := call(q)
+				changeQueue(call(q))
+				if !equalQueues(q, untouched) {
+					t.Fatalf("a change of a result changed %s", briefQueue(q))
+				}
+				x := call(q)
+				changeQueue(q)
+				if !equalQueues(x, want) {
+					t.Fatalf("a change of %s changed a result", briefQueue(untouched))
+				}
+			}
+		}
+	}
+}
+
+// changeQueue changes everything in the lists of q, their unused capacity too.
+func changeQueue(q impl.Queue) {
+	for i := range q.Items[:cap(q.Items)] {
+		q.Items[:cap(q.Items)][i] = report(-1, -1, -1, "changed")
+	}
+	for i := range q.Recent[:cap(q.Recent)] {
+		q.Recent[:cap(q.Recent)][i] = "changed"
 	}
 }
