@@ -14,7 +14,10 @@ import (
 // The model reads chapter 4 a second time. Where the program changes a list of
 // groups part by part, the model looks back from the end: what a name means
 // depends only on the parts behind the last one that removes it.
-var modelPart = regexp.MustCompile(`^[ \t]*([A-Za-z_][A-Za-z0-9_]{0,11})="([^"\\]*)"[ \t]*$`)
+var (
+	modelPart = regexp.MustCompile(`^[ \t]*([A-Za-z_][A-Za-z0-9_]{0,11})="([^"\\]*)"[ \t]*$`)
+	modelName = regexp.MustCompile(`^[A-Za-z_]\w{0,11}$`)
+)
 
 // modelClean returns no text, which is no URL, if there is no clean URL.
 func modelClean(t string) string {
@@ -143,7 +146,7 @@ func modelGroupOK(g impl.Group) bool {
 		}
 		urls[x.Url] = true
 	}
-	return len(urls) == len(g.Targets) && len(urls) > 0 && len(urls) < 5 && g.Age > 0 && g.Age < 101 && regexp.MustCompile(`^[A-Za-z_]\w{0,11}$`).MatchString(g.Name)
+	return len(urls) == len(g.Targets) && len(urls) > 0 && len(urls) < 5 && g.Age > 0 && g.Age < 101 && modelName.MatchString(g.Name)
 }
 
 // checkEndpoints compares ReadEndpoints with the model, and checks promise 4

@@ -223,7 +223,7 @@ func queuePlaces(q impl.Queue) []any {
 	recent := q.Recent[:cap(q.Recent)]
 	for i := range recent {
 		list = append(list, &recent[i])
-		list = append(list, bodyPlaces(recent[i])...)
+		list = append(list, textPlaces(recent[i])...)
 	}
 	return list
 }
@@ -233,16 +233,16 @@ func reportPlaces(reports []impl.Report) []any {
 	reports = reports[:cap(reports)]
 	for i := range reports {
 		list = append(list, &reports[i])
-		list = append(list, bodyPlaces(reports[i].Body)...)
+		list = append(list, textPlaces(reports[i].Body)...)
 	}
 	return list
 }
 
-func bodyPlaces(body string) []any {
-	if body == "" {
+func textPlaces(t string) []any {
+	if t == "" {
 		return nil
 	}
-	return []any{unsafe.StringData(body)}
+	return []any{unsafe.StringData(t)}
 }
 
 func idPlaces(ids []int) []any {
@@ -283,6 +283,97 @@ func queueCallsOf(offered []impl.Report) []queueCall {
 		})
 	}
 	return list
+}
+
+// hardPeers are lists of peers that are valid, invalid, or enormous; behind
+// them there is more in the same memory.
+func hardPeers() [][]impl.Peer {
+	r := rand.New(rand.NewSource(13))
+	long := strings.Repeat("a", 1<<20)
+	x := target("https://x/", 1, 1)
+	lists := [][]impl.Peer{
+		nil, {}, peers(5), peers(impl.MaxList), peers(impl.MaxList + 1), make([]impl.Peer, 1<<16), {ranked(long, 1, 1)}, {peer(target("https://x/"+long, 1, 1), 0, 0)},
+		{peer(x, math.MinInt, math.MinInt)}, {peer(x, math.MaxInt, math.MaxInt)}, {peer(x, 1, math.MinInt)}, {peer(x, 1, math.MaxInt)}, {peer(x, math.MinInt, 0)}, {peer(x, math.MaxInt, 0)},
+		{peer(target("https://x/", math.MinInt, math.MaxInt), 0, 0)}, {peer(target("https://x/", math.MaxInt, math.MinInt), 0, 0)}, {peer(x, impl.MaxNow, impl.MaxNow+impl.BackMost)}, {gone(peer(x, 1, 0))},
+	}
+	for n := range impl.MaxTargets + 1 {
+		lists = append(lists, peers(n))
+	}
+	for i := range 200 {
+		list := randomPeers(r)
+		for range i % 3 {
+			list = changedPeers(r, list)
+		}
+		lists = append(lists, list)
+	}
+	for i, list := range lists {
+		lists[i] = append(slices.Clone(list), ranked("spare", 1, 1), impl.Peer{})[:len(list)]
+	}
+	return lists
+}
+
+// peersPlaces collects the places of everything in a list, its unused capacity
+// and the bytes of its Urls too.
+func peersPlaces(list []impl.Peer) []any {
+	var found []any
+	list = list[:cap(list)]
+	for i := range list {
+		found = append(found, &list[i])
+		found = append(found, textPlaces(list[i].Target.Url)...)
+	}
+	return found
+}
+
+func targetPlaces(list []impl.Target) []any {
+	var found []any
+	list = list[:cap(list)]
+	for i := range list {
+		found = append(found, &list[i])
+		found = append(found, textPlaces(list[i].Url)...)
+	}
+	return found
+}
+
+// peersCalls returns calls of all functions that return a list of peers, but
+// for PeersOf; the groups name endpoints.
+func peersCalls(groups []impl.Group) []peersCall {
+	var list []peersCall
+	for _, k := range []int{math.MinInt, -1, 0, 1, 3, 4, math.MaxInt} {
+		list = append(list, works(k), goes(k))
+		for _, now := range []int{math.MinInt, -1, 0, impl.MaxNow, math.MaxInt} {
+			list = append(list, fails(k, now))
+		}
+	}
+	for _, g := range groups {
+		list = append(list, keeps(g))
+	}
+	return list
+}
+
+// peerCalls returns calls of all functions that tell a number about peers.
+func peerCalls() []peerCall {
+	var list []peerCall
+	for _, now := range []int{math.MinInt, -1, 0, 1, 25, impl.MaxNow, impl.MaxNow + 1, math.MaxInt} {
+		list = append(list, wake(now))
+		for _, draw := range []int{math.MinInt, -1, 0, 5, 9, impl.MaxNow, math.MaxInt} {
+			list = append(list, choose(now, draw))
+		}
+	}
+	return list
+}
+
+// someGroups are groups of which some name endpoints of hardPeers.
+func someGroups() []impl.Group {
+	r := rand.New(rand.NewSource(14))
+	lists := hardPeers()
+	groups := []impl.Group{{}, newcomer(), group("a", 5, targets(4)...), group("a", 5, targets(5)...), group("a", math.MinInt, targets(1)...)}
+	for range 20 {
+		groups = append(groups, randomPeerGroup(r, lists[r.Intn(len(lists))]))
+	}
+	for i, g := range groups {
+		groups[i].Targets = append(slices.Clone(g.Targets), target("https://spare/", 1, 1), impl.Target{})[:len(g.Targets)]
+	}
+	return groups
 }
 
 // spacious returns p with slices that have unused capacity.
@@ -444,11 +535,22 @@ func calls() []func() string {
 			list = append(list, func() string { s, _ := call(q); return s })
 		}
 	}
+	named := someGroups()
+	for _, old := range hardPeers() {
+		list = append(list, func() string { return fmt.Sprint(impl.PeersOK(old)) })
+		for _, call := range peersCalls(named) {
+			list = append(list, func() string { x, code := call(old); return fmt.Sprint(x, code) })
+		}
+		for _, call := range peerCalls() {
+			list = append(list, func() string { n, code := call(old); return fmt.Sprint(n, code) })
+		}
+	}
 	groups := hardGroups()
 	for i, g := range groups {
 		h := groups[(i*7+1)%len(groups)]
 		list = append(list,
 			func() string { return fmt.Sprint(impl.GroupOK(g)) },
+			func() string { x, code := impl.PeersOf(g); return fmt.Sprint(x, code) },
 			func() string { return fmt.Sprint(impl.SameGroup(g, g), impl.SameGroup(g, h)) },
 			func() string { s, code := impl.ReportToText(g); return fmt.Sprint(s, code) },
 		)
@@ -480,7 +582,10 @@ func calls() []func() string {
 		)
 	}
 	for _, n := range []int{math.MinInt, -1, 0, 1, 17, 18, 19, 1 << 32, math.MaxInt} {
-		list = append(list, func() string { return impl.CodeWord(n) })
+		list = append(list,
+			func() string { return impl.CodeWord(n) },
+			func() string { return fmt.Sprint(impl.Wait(n)) },
+		)
 	}
 	return list
 }
@@ -857,5 +962,126 @@ func changeQueue(q impl.Queue) {
 	}
 	for i := range q.Recent[:cap(q.Recent)] {
 		q.Recent[:cap(q.Recent)][i] = "changed"
+	}
+}
+
+// TestPeersUnchanged: a list of peers and a group are the same after every
+// call, and so is what they do not use.
+func TestPeersUnchanged(t *testing.T) {
+	named := someGroups()
+	groups := append(slices.Clone(named), hardGroups()...)
+	before := wholeGroups(groups)
+	for _, g := range groups {
+		impl.PeersOf(g)
+		impl.KeepPeers(peers(4), g)
+	}
+	for _, list := range hardPeers() {
+		listed := slices.Clone(list[:cap(list)])
+		impl.PeersOK(list)
+		for _, call := range peersCalls(named) {
+			call(list)
+		}
+		for _, call := range peerCalls() {
+			call(list)
+		}
+		if !slices.Equal(list[:cap(list)], listed) {
+			t.Errorf("%s were changed", briefPeers(listed))
+		}
+	}
+	if !slices.EqualFunc(wholeGroups(groups), before, sameGroup) {
+		t.Error("a group was changed")
+	}
+}
+
+// TestPeersAreNew: no result shares memory with an argument or with another
+// result.
+func TestPeersAreNew(t *testing.T) {
+	found := 0
+	named := someGroups()
+	groups := append(slices.Clone(named), hardGroups()...)
+	seen := map[any]bool{}
+	for _, g := range groups {
+		for _, place := range targetPlaces(g.Targets) {
+			seen[place] = true
+		}
+	}
+	// isNew keeps the places of results, so that none is used twice.
+	isNew := func(list []impl.Peer) bool {
+		for _, place := range peersPlaces(list) {
+			if seen[place] {
+				return false
+			}
+			seen[place] = true
+			found++
+		}
+		return true
+	}
+	for _, g := range groups {
+		for range 2 {
+			if x, _ := impl.PeersOf(g); !isNew(x) {
+				t.Fatalf("%s: peers share memory", briefGroup(g))
+			}
+		}
+	}
+	for _, list := range hardPeers() {
+		for _, place := range peersPlaces(list) {
+			seen[place] = true
+		}
+		for i, call := range peersCalls(named) {
+			for range 2 {
+				if x, _ := call(list); !isNew(x) {
+					t.Fatalf("%s: results of call %d share memory", briefPeers(list), i)
+				}
+			}
+		}
+	}
+	if found < 10000 {
+		t.Errorf("only %d places", found)
+	}
+}
+
+// TestChangesOfPeers: a change of a result is not seen in the arguments, nor
+// one of the arguments in the result.
+func TestChangesOfPeers(t *testing.T) {
+	for n := 1; n <= impl.MaxTargets; n++ {
+		for k := range n {
+			for _, away := range []bool{false, true} {
+				for i, call := range []func([]impl.Peer, impl.Group) []impl.Peer{
+					func(list []impl.Peer, _ impl.Group) []impl.Peer { x, _ := impl.PeerFails(list, k, 7); return x },
+					func(list []impl.Peer, _ impl.Group) []impl.Peer { x, _ := impl.PeerWorks(list, k); return x },
+					func(list []impl.Peer, _ impl.Group) []impl.Peer { x, _ := impl.PeerGone(list, k); return x },
+					func(list []impl.Peer, g impl.Group) []impl.Peer { x, _ := impl.KeepPeers(list, g); return x },
+					func(_ []impl.Peer, g impl.Group) []impl.Peer { x, _ := impl.PeersOf(g); return x },
+				} {
+					arguments := func() ([]impl.Peer, impl.Group) {
+						list := peers(n)
+						list[k].Gone = away
+						return list, group("a", 5, targets(n)...)
+					}
+					list, g := arguments()
+					want := slices.Clone(call(list, g))
+					x := call(list, g)
+					changePeers(x)
+					if sameList, sameG := arguments(); len(x) != n || !slices.Equal(list, sameList) || !sameGroup(g, sameG) {
+						t.Fatalf("a change of the result of call %d changed an argument", i)
+					}
+					x = call(list, g)
+					changePeers(list)
+					for j := range g.Targets {
+						g.Targets[j] = target("changed", -1, -1)
+					}
+					if !slices.Equal(x, want) {
+						t.Fatalf("a change of an argument changed the result of call %d", i)
+					}
+				}
+			}
+		}
+	}
+}
+
+// changePeers changes everything in a list, its unused capacity too.
+func changePeers(list []impl.Peer) {
+	for i := range list[:cap(list)] {
+		list[:cap(list)][i] = gone(peer(target("changed", -1, -1), -1, -1))
 	}
 }
