@@ -1,6 +1,9 @@
 package impl
 
-import "strings"
+import (
+	"slices"
+	"strings"
+)
 
 const (
 	MaxText = 65536
@@ -107,4 +110,14 @@ func lowerText(t string) string {
 		}
 	}
 	return string(b)
+}
+
+// ownList returns a copy of a list that shares no memory with it; own copies an
+// element.
+func ownList[T any](list []T, own func(T) T) []T {
+	list = slices.Clone(list)
+	for i, x := range list {
+		list[i] = own(x)
+	}
+	return list
 }

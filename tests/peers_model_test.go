@@ -357,6 +357,22 @@ func (x life) isReady(now int) bool {
 	return !x.gone && (x.failures == 0 || now-x.lastFailure >= min(1<<min(x.failures, 6), 32))
 }
 
+// renamed returns the lives of a group's endpoints after those that were named
+// before.
+func renamed(old []life, g impl.Group) []life {
+	var list []life
+	for _, x := range g.Targets {
+		one := life{target: x}
+		for _, before := range old {
+			if before.target.Url == x.Url && !before.gone {
+				one.failures, one.lastFailure = before.failures, before.lastFailure
+			}
+		}
+		list = append(list, one)
+	}
+	return list
+}
+
 // lives are those of a group's endpoints in order.
 type lives struct {
 	list  []life
@@ -367,17 +383,7 @@ type lives struct {
 // name names endpoints; one that is not named is forgotten.
 func (l *lives) name(t *testing.T, g impl.Group) {
 	t.Helper()
-	var list []life
-	for _, x := range g.Targets {
-		one := life{target: x}
-		for _, before := range l.list {
-			if before.target.Url == x.Url && !before.gone {
-				one.failures, one.lastFailure = before.failures, before.lastFailure
-			}
-		}
-		list = append(list, one)
-	}
-	l.list = list
+	l.list = renamed(l.list, g)
 	x, code := impl.KeepPeers(l.peers, g)
 	if code != impl.OK {
 		t.Errorf("KeepPeers(%s, %s): code %d", briefPeers(l.peers), briefGroup(g), code)

@@ -587,7 +587,7 @@ func calls() []func() string {
 			func() string { return fmt.Sprint(impl.Wait(n)) },
 		)
 	}
-	return list
+	return append(list, pipeCalls()...)
 }
 
 // TestResultsDependOnArgumentsOnly makes all calls in order, then backwards,
