@@ -129,6 +129,7 @@ func isPipe(t *testing.T, p impl.Pipe) {
 			t.Errorf("DoEvent(%s, %s): got %s, %d", briefPipe(p), briefEvent(e), briefPipe(x), code)
 		}
 	}
+	matchesFates(t, p)
 }
 
 // noPipe checks that every function refuses an invalid pipeline.
@@ -145,6 +146,7 @@ func noPipe(t *testing.T, p impl.Pipe) {
 	for _, e := range append(eventsOfEachKind(), impl.Event{}) {
 		refusesEvent(t, p, e)
 	}
+	refusesFates(t, p)
 }
 
 func refusesEvent(t *testing.T, p impl.Pipe, e impl.Event) {
