@@ -263,10 +263,7 @@ type bearer struct {
 func (b *bearer) do(t *testing.T, e impl.Event) {
 	t.Helper()
 	before := b.pipe
-	p, outcome, code := impl.DoEvent(before, e)
-	if code != impl.OK {
-		t.Fatalf("DoEvent(%s, %s): code %d", briefPipe(before), briefEvent(e), code)
-	}
+	p, outcome := taken(t, before, e)
 	b.pipe = p
 	if p.Next > before.Next {
 		b.stories[before.Next] = map[int]string{impl.OK: "1", impl.ErrAgain: "6", impl.ErrName: "7"}[outcome]

@@ -36,7 +36,7 @@ type modelLexer string
 
 // next skips whitespace and returns the token that follows, if it matches.
 func (l *modelLexer) next(token *regexp.Regexp) string {
-	rest := modelSpace.ReplaceAllString(string(*l), "")
+	rest := strings.TrimPrefix(string(*l), modelSpace.FindString(string(*l)))
 	found := token.FindString(rest)
 	*l = modelLexer(rest[len(found):])
 	return found
@@ -382,9 +382,13 @@ func brokenJson(r *rand.Rand, j impl.Json) impl.Json {
 	return j
 }
 
-// randomJsonText takes the parts of a value, changes some, and spells them.
+// randomJsonText returns a text that need not be that of a value.
 func randomJsonText(r *rand.Rand) string {
-	parts := jsonParts(randomJson(r, 1+r.Intn(5)))
+	return misspelled(r, jsonParts(randomJson(r, 1+r.Intn(5))))
+}
+
+// misspelled changes some of the parts of a value, and spells them.
+func misspelled(r *rand.Rand, parts []string) string {
 	others := []string{
 		"[", "]", "{", "}", ",", ":", "null", "true", "false", "0", "-1", "999999999", "1000000000", "-1000000000", "1000000000000000000", "01", "-0", "-", "1.5",
 		`"a"`, `""`, `"\u0041"`, `"\/"`, `"`, `"\q"`, `"\u0100"`, "\"\x80\"", `"` + strings.Repeat("x", 121) + `"`, `"` + strings.Repeat(`\n`, 120) + `"`,
@@ -466,18 +470,25 @@ func TestEveryByteEverywhere(t *testing.T) {
 		"[" + joined(11, "0") + ",10]",
 		`"` + strings.Repeat("a", 119) + `\n"`,
 	} {
-		for i := 0; i <= len(s); i++ {
-			for b := range 256 {
-				c := string([]byte{byte(b)})
-				checkRead(t, s[:i]+c+s[i:])
-				if i < len(s) {
-					checkRead(t, s[:i]+c+s[i+1:])
-				}
-			}
+		everyByte(s, func(s string) { checkRead(t, s) })
+	}
+}
+
+// everyByte calls check with s after each change of one byte, and with what is
+// before and behind each place.
+func everyByte(s string, check func(string)) {
+	for i := 0; i <= len(s); i++ {
+		check(s[:i])
+		check(s[i:])
+		for b := range 256 {
+			c := string([]byte{byte(b)})
+			check(s[:i] + c + s[i:])
 			if i < len(s) {
-				checkRead(t, s[:i]+s[i+1:])
+				check(s[:i] + c + s[i+1:])
 			}
-			checkRead(t, s[:i])
+		}
+		if i < len(s) {
+			check(s[:i] + s[i+1:])
 		}
 	}
 }

@@ -583,6 +583,16 @@ func TestModelOfPipes(t *testing.T) {
 	}
 }
 
+// taken does an event, which must not be refused.
+func taken(t *testing.T, p impl.Pipe, e impl.Event) (impl.Pipe, int) {
+	t.Helper()
+	x, outcome, code := impl.DoEvent(p, e)
+	if code != impl.OK {
+		t.Fatalf("DoEvent(%s, %s): code %d", briefPipe(p), briefEvent(e), code)
+	}
+	return x, outcome
+}
+
 // witness knows the endpoints of each channel from events and wires alone.
 type witness struct {
 	endpoints map[string][]life
@@ -594,10 +604,7 @@ type witness struct {
 // take.
 func (x *witness) do(t *testing.T, e impl.Event) {
 	t.Helper()
-	p, outcome, code := impl.DoEvent(x.pipe, e)
-	if code != impl.OK {
-		t.Fatalf("DoEvent(%s, %s): code %d", briefPipe(x.pipe), briefEvent(e), code)
-	}
+	p, outcome := taken(t, x.pipe, e)
 	before := x.pipe
 	x.pipe = p
 	switch e.Kind {
@@ -759,11 +766,7 @@ func TestPromise14(t *testing.T) {
 		p := impl.NewPipe()
 		p.Now = i % 2 * (impl.MaxNow - 300)
 		for _, e := range eventsOf(r, 120, i%3 == 0) {
-			x, _, code := impl.DoEvent(p, e)
-			if code != impl.OK {
-				t.Fatalf("DoEvent(%s, %s): code %d", briefPipe(p), briefEvent(e), code)
-			}
-			p = x
+			p, _ = taken(t, p, e)
 			if r.Intn(4) > 0 {
 				continue
 			}

@@ -426,6 +426,12 @@ func TestRunsEnd(t *testing.T) {
 		}
 		refusesRun(t, impl.ErrBad, tickEvent(1), tickEvent(0))
 	}
+	noneGoesOn(t, before)
+}
+
+// noneGoesOn waits until there are no more goroutines than before some calls.
+func noneGoesOn(t *testing.T, before int) {
+	t.Helper()
 	for range 10000 {
 		if runtime.NumGoroutine() <= before {
 			return

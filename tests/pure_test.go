@@ -587,7 +587,7 @@ func calls() []func() string {
 			func() string { return fmt.Sprint(impl.Wait(n)) },
 		)
 	}
-	return append(append(list, pipeCalls()...), fateCalls()...)
+	return slices.Concat(list, pipeCalls(), fateCalls(), wireCalls())
 }
 
 // TestResultsDependOnArgumentsOnly makes all calls in order, then backwards,
