@@ -160,13 +160,7 @@ func hardPipes() []impl.Pipe {
 	for _, name := range slices.Sorted(maps.Keys(smallChanges)) {
 		pipes = append(pipes, after(laden(), smallChanges[name]))
 	}
-	for i := range 60 {
-		p := randomPipe(r)
-		for range i % 3 {
-			p = changedPipe(r, p)
-		}
-		pipes = append(pipes, p)
-	}
+	pipes = append(pipes, someChanged(r, 60, randomPipe, changedPipe)...)
 	for i, p := range pipes {
 		pipes[i] = apart(p)
 	}
@@ -182,13 +176,7 @@ func hardEvents() []impl.Event {
 		list = append(list, endpointsEvent(text), reportToEvent(text), policyEvent(text))
 	}
 	list = append(list, sendEvent(long, 0, 200), sendEvent("csp", math.MinInt, math.MinInt), sendEvent("csp", math.MaxInt, math.MaxInt), tickEvent(math.MinInt), tickEvent(math.MaxInt), violationEvent(impl.Violation{Document: long, Directive: long}))
-	for i := range 20 {
-		e := randomEvent(r)
-		for range i % 3 {
-			e = changedEvent(r, e)
-		}
-		list = append(list, e)
-	}
+	list = append(list, someChanged(r, 20, randomEvent, changedEvent)...)
 	return list
 }
 

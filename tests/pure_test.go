@@ -40,6 +40,20 @@ func hardTexts() []string {
 	return texts
 }
 
+// someChanged returns n random values, of which two in three are changed, once
+// or twice.
+func someChanged[T any](r *rand.Rand, n int, random func(*rand.Rand) T, change func(*rand.Rand, T) T) []T {
+	var list []T
+	for i := range n {
+		x := random(r)
+		for range i % 3 {
+			x = change(r, x)
+		}
+		list = append(list, x)
+	}
+	return list
+}
+
 func hardUrls() []impl.Url {
 	r := rand.New(rand.NewSource(5))
 	long := strings.Repeat("a", 1<<20)
@@ -157,13 +171,7 @@ func hardViolations() []impl.Violation {
 	for _, field := range urlFields {
 		violations = append(violations, like(func(v *impl.Violation) { *field(v) = long }), like(func(v *impl.Violation) { *field(v) = "https://x/" + long }))
 	}
-	for i := range 600 {
-		v := randomViolation(r)
-		for range i % 3 {
-			v = changedViolation(r, v)
-		}
-		violations = append(violations, v)
-	}
+	violations = append(violations, someChanged(r, 600, randomViolation, changedViolation)...)
 	return violations
 }
 
@@ -196,13 +204,7 @@ func hardQueues() []impl.Queue {
 			queues = append(queues, sized(i, j))
 		}
 	}
-	for i := range 200 {
-		q := randomQueue(r)
-		for range i % 3 {
-			q = changedQueue(r, q)
-		}
-		queues = append(queues, q)
-	}
+	queues = append(queues, someChanged(r, 200, randomQueue, changedQueue)...)
 	for i, q := range queues {
 		spareItems := append(slices.Clone(q.Items), report(2000, 2000, 0, "spare"), impl.Report{})
 		spareRecent := append(slices.Clone(q.Recent), "spare", "")
@@ -299,13 +301,7 @@ func hardPeers() [][]impl.Peer {
 	for n := range impl.MaxTargets + 1 {
 		lists = append(lists, peers(n))
 	}
-	for i := range 200 {
-		list := randomPeers(r)
-		for range i % 3 {
-			list = changedPeers(r, list)
-		}
-		lists = append(lists, list)
-	}
+	lists = append(lists, someChanged(r, 200, randomPeers, changedPeers)...)
 	for i, list := range lists {
 		lists[i] = append(slices.Clone(list), ranked("spare", 1, 1), impl.Peer{})[:len(list)]
 	}
@@ -587,7 +583,7 @@ func calls() []func() string {
 			func() string { return fmt.Sprint(impl.Wait(n)) },
 		)
 	}
-	return slices.Concat(list, pipeCalls(), fateCalls(), wireCalls())
+	return slices.Concat(list, pipeCalls(), fateCalls(), wireCalls(), receiverCalls())
 }
 
 // TestResultsDependOnArgumentsOnly makes all calls in order, then backwards,

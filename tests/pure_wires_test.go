@@ -22,13 +22,7 @@ func hardParcels() []impl.Parcel {
 		parcel(1, 0, long), parcel(1, 0, `{"a":"`+long+`"}`), parcel(1, 0, strings.Repeat("[", 1<<20)), parcel(1, 0, strings.Repeat(`{"a":`, 1000)), parcel(1, 0, strings.Repeat("{", 8000)),
 		parcel(1000000, 1000000, bulky(8000)), parcel(1, 0, bulky(8001)), parcel(1, 0, "{ }"), parcel(1, 0, "\xff"), parcel(1, 0, `{},"id":1`),
 	)
-	for i := range 300 {
-		x := randomParcel(r)
-		for range i % 3 {
-			x = changedParcel(r, x)
-		}
-		list = append(list, x)
-	}
+	list = append(list, someChanged(r, 300, randomParcel, changedParcel)...)
 	for i, x := range list {
 		list[i].Body = strings.Clone(x.Body)
 	}

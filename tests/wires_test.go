@@ -763,18 +763,25 @@ func TestOtherFieldsOfWires(t *testing.T) {
 	}
 }
 
+// withReports returns a pipeline with n reports in its queue, each followed by
+// three ticks, and their bodies.
+func withReports(t *testing.T, n int) (impl.Pipe, []string) {
+	t.Helper()
+	p := pipe(toCsp, "csp")
+	var told []string
+	for line := range n {
+		v := like(func(v *impl.Violation) { v.Line = line })
+		p = done(t, p, violationEvent(v), tickEvent(3))
+		body, _ := impl.BodyText(v)
+		told = append(told, body)
+	}
+	return p, told
+}
+
 // TestParcelsOfEvents: a report is in a wire as often as it was sent, each time
 // with its age.
 func TestParcelsOfEvents(t *testing.T) {
-	p := pipe(toCsp, "csp")
-	var told []string
-	for line := range 4 {
-		v := like(func(v *impl.Violation) { v.Line = line })
-		p = done(t, p, violationEvent(v))
-		body, _ := impl.BodyText(v)
-		told = append(told, body)
-		p = done(t, p, tickEvent(3))
-	}
+	p, told := withReports(t, 4)
 	first := []impl.Parcel{parcel(5, 12, told[0]), parcel(6, 9, told[1]), parcel(7, 6, told[2])}
 	p, _, _ = impl.DoEvent(p, sendEvent("csp", 0, 500))
 	takesParcels(t, p.Wires[0], first...)
